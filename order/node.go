@@ -55,7 +55,7 @@ func (n *node) over(seed uint64, left, right *node) *node {
 
 // sideDigest returns the digest of a node, of which a step of a proof tells all that it takes.
 func sideDigest(seed uint64, s api.Side) uint64 {
-	told := make([]byte, 0, 19+len(s.Key)+len(s.Value))
+	told := make([]byte, 0, 8+1+len(s.Key)+2+len(s.Value)+8)
 	told = appendLittle(told, s.Left, 8)
 	told = append(told, byte(len(s.Key)))
 	told = append(told, s.Key...)
